@@ -40,11 +40,19 @@ func readLink(p *pool.Pool, number uint32, left int) (link, api.Errno) {
 	if kind != page.Over || len(payload) != field+min(left, perPage) {
 		return link{}, api.ErrOverForm
 	}
-	next, isLast := getNumber(payload), left <= perPage
-	if (next == 0) != isLast {
+	next := getNumber(payload)
+	if !leadsRight(next, left <= perPage) {
 		return link{}, api.ErrOverForm
 	}
 	return link{number, next, payload[field:]}, api.OK
+}
+
+// leadsRight says whether Encode could have given a page this next one: the last leads nowhere, each other one to a page that a great value may stand on.
+func leadsRight(next uint32, isLast bool) bool {
+	if isLast {
+		return next == 0
+	}
+	return !mayNotBe(next)
 }
 
 func payloadOf(next uint32, part []byte) []byte {

@@ -62,8 +62,11 @@ func TestReadFromWhatIsNoPage(t *testing.T) {
 // TestReadFromTheFirstPages: which page is the first, the caller says.
 func TestReadFromTheFirstPages(t *testing.T) {
 	value := mixed(1500, 23)
-	for _, at := range [][]uint32{{0, 2}, {1, 2}, {2, 1}, {0, 1}} {
+	for _, at := range [][]uint32{{0, 2}, {1, 2}, {0, 3}, {1, 3}} {
 		reads(t, made(t, loaded(t, 4, sheets(value, at)...), 2), value, at)
+	}
+	for first := range uint32(2) {
+		reads(t, made(t, loaded(t, 4, sheets(value[:1004], []uint32{first})...), 2), value[:1004], []uint32{first})
 	}
 }
 
@@ -177,6 +180,44 @@ func TestAChainThatEndsTooSoon(t *testing.T) {
 	}
 }
 
+// noNext are numbers that Encode gives no page as its next one, but for the 0 of the last.
+var noNext = []uint32{0, 1, 16384, 16385, 27651, 1<<16 - 1, 1 << 16, 1<<16 + 3, 1 << 24, 1<<24 + 3, 1<<31 - 1, 1 << 31, 1<<31 + 3, greatest - 1, greatest}
+
+// TestAChainThatLeadsWhereNoValueMayStand: a next page that Encode would not give is told by the page that has it.
+func TestAChainThatLeadsWhereNoValueMayStand(t *testing.T) {
+	for _, chain := range chains() {
+		for place := range len(chain) - 1 {
+			for _, next := range noNext {
+				endsThere(t, chain, place, broken{"no such next page", withNext(next), api.ErrOverForm})
+			}
+		}
+	}
+}
+
+// TestAChainThatLeadsToTheFirstPages: also where all that is missing stands on page 0 or 1, in a disk that has all pages that may be.
+func TestAChainThatLeadsToTheFirstPages(t *testing.T) {
+	value := mixed(1500, 28)
+	for _, pages := range []int{3, 4, 16384} {
+		for next := range uint32(2) {
+			rest := sheet{next, page.Over, payload(0, value[1004:])}
+			d := loaded(t, pages, sheet{2, page.Over, payload(next, value[:1004])}, rest)
+			ends(t, "a first page as the next one", d, 2, 1500, api.ErrOverForm, 1, 2)
+		}
+	}
+}
+
+// TestAChainThatLeadsToTheEdges: the least and the greatest page are next ones that may be, and the one behind is none.
+func TestAChainThatLeadsToTheEdges(t *testing.T) {
+	value := mixed(3000, 29)
+	for _, at := range [][]uint32{{3, 2, 16383}, {3, 16383, 2}, {16383, 2, 3}, {2, 16383, 3}} {
+		reads(t, made(t, loaded(t, 16384, sheets(value, at)...), 2), value, at)
+	}
+	for _, next := range noNext {
+		d := loaded(t, 16384, sheet{5, page.Over, payload(next, value[:1004])})
+		ends(t, "no such next page", d, 5, 3000, api.ErrOverForm, 1, 5)
+	}
+}
+
 // TestAChainThatGoesOnTooLong: of full pages, the last one that is asked for leads on.
 func TestAChainThatGoesOnTooLong(t *testing.T) {
 	chain := sheets(mixed(8192, 25), from(3, 9))
@@ -208,12 +249,12 @@ func TestAChainWithTornPages(t *testing.T) {
 	}
 }
 
-// TestAChainThatLeadsOutOfTheDisk: nothing is read for the page that is not there.
+// TestAChainThatLeadsOutOfTheDisk: to pages that may be, but that this disk has not; nothing is read for the page that is not there.
 func TestAChainThatLeadsOutOfTheDisk(t *testing.T) {
 	for _, chain := range chains() {
 		at := pagesOf(chain)
 		for place := range len(chain) - 1 {
-			for _, next := range []uint32{13, 14, 16383, 16384, 1<<16 + 3, 1<<24 + 3, 1<<31 + 3, greatest} {
+			for _, next := range []uint32{13, 14, 255, 256, 1<<8 + 3, 16382, 16383} {
 				d := loaded(t, 13, broken{"", withNext(next), 0}.applied(chain, place)...)
 				ends(t, "out of the disk", d, at[0], sizeOf(chain), api.ErrRange, place+1, at[:place+1]...)
 			}

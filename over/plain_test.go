@@ -36,7 +36,7 @@ func plainRead(p *pool.Pool, first, size uint32) ([]byte, []uint32, api.Errno) {
 			return nil, nil, api.ErrOverForm
 		}
 		next := binary.LittleEndian.Uint32(b)
-		if last && next != 0 || !last && next == 0 {
+		if last && next != 0 || !last && (next < 2 || next > 16383) {
 			return nil, nil, api.ErrOverForm
 		}
 		value, pages = append(value, b[4:]...), append(pages, number)
@@ -81,11 +81,12 @@ func (p pair) write(number uint32, kind uint8, b []byte) {
 	p.plainPool.Write(number, kind, b)
 }
 
-// TestAllSmallChains goes through all that three pages may lead to, full or not, and through all sizes that they may have.
+// TestAllSmallChains goes through all that three pages may lead to (pages 0 and 1 have what could end a chain), full or not, and through all sizes that they may have.
 func TestAllSmallChains(t *testing.T) {
 	full, some := mixed(1004, 61), mixed(100, 62)
+	end := func(number uint32) sheet { return sheet{number, page.Over, payload(0, some)} }
 	var kinds []func(number uint32) sheet
-	for _, next := range []uint32{0, 2, 3, 4, 5} {
+	for _, next := range []uint32{0, 1, 2, 3, 4, 5, 16384} {
 		for _, part := range [][]byte{full, some} {
 			kinds = append(kinds, func(number uint32) sheet { return sheet{number, page.Over, payload(next, part)} })
 		}
@@ -93,7 +94,7 @@ func TestAllSmallChains(t *testing.T) {
 	for _, a := range kinds {
 		for _, b := range kinds {
 			for _, c := range kinds {
-				image := loaded(t, 5, a(2), b(3), c(4)).Image()
+				image := loaded(t, 5, end(0), end(1), a(2), b(3), c(4)).Image()
 				p := newPair(t, image, 2)
 				for _, size := range []uint32{100, 1004, 1104, 2008, 2108, 3012, 3112, 8192} {
 					if !p.readsAlike(2, size) {
@@ -114,7 +115,7 @@ func anyPage(r *rand.Rand, pages int) (uint8, []byte) {
 	case 1:
 		length = 1000 + r.Intn(5)
 	case 2:
-		next = []uint32{uint32(pages), 16384, greatest, 1, 1 << 16}[r.Intn(5)]
+		next = []uint32{uint32(pages), 16383, 16384, greatest, 0, 1, 1 << 16}[r.Intn(7)]
 	case 3:
 		return kind, mixed(r.Intn(5), r.Uint32())
 	case 4, 5, 6:
